@@ -739,11 +739,17 @@ func checkNoRun(t *testing.T, list []impl.Stmt, inputs [][]int) {
 	}
 }
 
+// unrollable is the definition of a list of valid statements that is a program
+// and small enough to be unrolled.
+func unrollable(list []impl.Stmt) bool {
+	depth := nestingOf(bracketsOf(list))
+	return len(list) <= maxStmts && depth >= 0 && depth <= maxDepth && len(unrolledOf(list)) <= maxUnrolled
+}
+
 // checkRuns checks a list, program or not, with all sets of inputs.
 func checkRuns(t *testing.T, list []impl.Stmt) {
 	t.Helper()
-	depth := nestingOf(bracketsOf(list))
-	fits := len(list) <= maxStmts && depth >= 0 && depth <= maxDepth && len(unrolledOf(list)) <= maxUnrolled
+	fits := unrollable(list)
 	for _, inputs := range inputSets() {
 		if fits {
 			checkRun(t, list, inputs, outputsOf(list, inputs))
@@ -884,13 +890,17 @@ func TestRunProgramOfMadePrograms(t *testing.T) {
 	}
 }
 
+// notProgramTexts are those of lists, with outputs or without, whose loops and
+// ends do not match, are nested too deep, or have a wrong number of times.
+var notProgramTexts = []string{
+	"2", ")", ")2", "x)", "2x", "22)", "2))", "2)2", "222", ")))", "o)", "2o", "o2", ")o", "2o)2o", "2o))o", "oo(", "x2x", "x)x",
+	"1111))))", "2222))))", "2222o))))", "o1111))))o", "0)", "0o)", "9)", "9o)", "20o))", "2o9))", "o0)", "o9)o",
+}
+
 // Lists that are no programs, with outputs or without.
 func TestRunProgramNoPrograms(t *testing.T) {
 	inputs := madeInputs(3)
-	for _, text := range []string{
-		"2", ")", ")2", "x)", "2x", "22)", "2))", "2)2", "222", ")))", "o)", "2o", "o2", ")o", "2o)2o", "2o))o", "oo(", "x2x", "x)x",
-		"1111))))", "2222))))", "2222o))))", "o1111))))o", "0)", "0o)", "9)", "9o)", "20o))", "2o9))", "o0)", "o9)o",
-	} {
+	for _, text := range notProgramTexts {
 		checkNoRun(t, placed(text), inputs)
 	}
 	whole := []impl.Stmt{inputTo(0, 1), outOf(0), loopOf(2), sumTo(1, 0, 1), outOf(1), loopEnd, numberTo(0, 6), outOf(0)}
